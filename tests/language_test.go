@@ -1,0 +1,81 @@
+package tests
+
+import (
+	"bytes"
+	"go/ast"
+	"go/format"
+	"go/parser"
+	"go/token"
+	"os"
+	"path/filepath"
+	"slices"
+	"strings"
+	"testing"
+)
+
+const mostLinesOfAFunction = 60
+
+var allowedImports = strings.Fields(`bytes cmp container/heap errors iter maps math math/bits slices sort
+	strconv strings sync sync/atomic unicode unicode/utf8`)
+
+// TestLanguage holds the program against what of the language page a parser can see.
+func TestLanguage(t *testing.T) {
+	names, err := filepath.Glob(filepath.Join("..", "impl", "*.go"))
+	if err != nil || len(names) == 0 {
+		t.Fatal("no files of the program", err)
+	}
+	for _, name := range names {
+		src, err := os.ReadFile(name)
+		if err != nil {
+			t.Fatal(err)
+		}
+		if laid, err := format.Source(src); err != nil || !bytes.Equal(laid, src) {
+			t.Errorf("%s has not gofmt's layout %v", name, err)
+		}
+		files := token.NewFileSet()
+		file, err := parser.ParseFile(files, name, src, parser.ParseComments)
+		if err != nil {
+			t.Fatal(err)
+		}
+		checkImports(t, name, file)
+		checkFunctions(t, files, file)
+	}
+}
+
+func checkImports(t *testing.T, name string, file *ast.File) {
+	for _, i := range file.Imports {
+		if path := strings.Trim(i.Path.Value, `"`); !slices.Contains(allowedImports, path) {
+			t.Errorf("%s imports %s", name, path)
+		}
+	}
+	for _, group := range file.Comments {
+		for _, c := range group.List {
+			if strings.HasPrefix(c.Text, "//go:") || strings.HasPrefix(c.Text, "// +build") {
+				t.Errorf("%s has the line %s", name, c.Text)
+			}
+		}
+	}
+}
+
+func checkFunctions(t *testing.T, files *token.FileSet, file *ast.File) {
+	for _, d := range file.Decls {
+		f, ok := d.(*ast.FuncDecl)
+		if !ok {
+			continue
+		}
+		if lines := files.Position(f.End()).Line - files.Position(f.Pos()).Line + 1; lines > mostLinesOfAFunction {
+			t.Errorf("%s has %d lines", f.Name.Name, lines)
+		}
+	}
+}
+
+// TestKindsAreCountedUp asks for the way of chapter 1 that no answer shows.
+func TestKindsAreCountedUp(t *testing.T) {
+	src, err := os.ReadFile(filepath.Join("..", "impl", "l1_float.go"))
+	if err != nil {
+		t.Fatal(err)
+	}
+	if !bytes.Contains(src, []byte("KdNan = iota\n")) {
+		t.Error("the kinds are not counted up from KdNan")
+	}
+}
