@@ -39,6 +39,7 @@ func TestLanguage(t *testing.T) {
 		}
 		checkImports(t, name, file)
 		checkFunctions(t, files, file)
+		checkVariables(t, file)
 	}
 }
 
@@ -66,6 +67,41 @@ func checkFunctions(t *testing.T, files *token.FileSet, file *ast.File) {
 		if lines := files.Position(f.End()).Line - files.Position(f.Pos()).Line + 1; lines > mostLinesOfAFunction {
 			t.Errorf("%s has %d lines", f.Name.Name, lines)
 		}
+	}
+}
+
+// checkVariables lets nothing but tables that are written out, and errors of one text, stand at package level.
+func checkVariables(t *testing.T, file *ast.File) {
+	for _, d := range file.Decls {
+		group, ok := d.(*ast.GenDecl)
+		if !ok || group.Tok != token.VAR {
+			continue
+		}
+		for _, s := range group.Specs {
+			v := s.(*ast.ValueSpec)
+			if len(v.Values) != len(v.Names) {
+				t.Errorf("%s has no value of its own", v.Names[0].Name)
+			}
+			for _, value := range v.Values {
+				checkValue(t, v.Names[0].Name, value)
+			}
+		}
+	}
+}
+
+func checkValue(t *testing.T, name string, value ast.Expr) {
+	switch x := value.(type) {
+	case *ast.CompositeLit:
+		if _, ok := x.Type.(*ast.ArrayType); !ok {
+			t.Errorf("%s is no table", name)
+		}
+	case *ast.CallExpr:
+		f, ok := x.Fun.(*ast.SelectorExpr)
+		if !ok || f.Sel.Name != "New" || !strings.HasPrefix(name, "err") {
+			t.Errorf("%s is made by a call", name)
+		}
+	default:
+		t.Errorf("%s is neither a table nor an error", name)
 	}
 }
 
