@@ -115,3 +115,26 @@ func TestKindsAreCountedUp(t *testing.T) {
 		t.Error("the kinds are not counted up from KdNan")
 	}
 }
+
+// TestRunsAreWalkedByLabels asks for the ways of chapter 4 in its own file, since other chapters have them too.
+func TestRunsAreWalkedByLabels(t *testing.T) {
+	file, err := parser.ParseFile(token.NewFileSet(), filepath.Join("..", "impl", "l4_run.go"), nil, 0)
+	if err != nil {
+		t.Fatal(err)
+	}
+	byLabel, byNumber := false, false
+	ast.Inspect(file, func(n ast.Node) bool {
+		if x, ok := n.(*ast.LabeledStmt); ok {
+			loop, isLoop := x.Stmt.(*ast.RangeStmt)
+			byLabel = byLabel || isLoop
+			if isLoop {
+				_, isSum := loop.X.(*ast.BinaryExpr) // only a number is a sum
+				byNumber = byNumber || isSum
+			}
+		}
+		return true
+	})
+	if !byLabel || !byNumber {
+		t.Error("no loop with a label goes over a number", byLabel, byNumber)
+	}
+}
