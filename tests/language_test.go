@@ -4,8 +4,10 @@ import (
 	"bytes"
 	"go/ast"
 	"go/format"
+	"go/importer"
 	"go/parser"
 	"go/token"
+	"go/types"
 	"os"
 	"path/filepath"
 	"slices"
@@ -136,5 +138,46 @@ func TestRunsAreWalkedByLabels(t *testing.T) {
 	})
 	if !byLabel || !byNumber {
 		t.Error("no loop with a label goes over a number", byLabel, byNumber)
+	}
+}
+
+// TestSchedulesByAnIterator asks for the ways of chapter 5 in its own file: a range over a function, and arrays that are compared.
+func TestSchedulesByAnIterator(t *testing.T) {
+	files := token.NewFileSet()
+	names, err := filepath.Glob(filepath.Join("..", "impl", "*.go"))
+	if err != nil {
+		t.Fatal(err)
+	}
+	var all []*ast.File
+	var own *ast.File
+	for _, name := range names {
+		file, err := parser.ParseFile(files, name, nil, 0)
+		if err != nil {
+			t.Fatal(err)
+		}
+		all = append(all, file)
+		if filepath.Base(name) == "l5_prio.go" {
+			own = file
+		}
+	}
+	kinds := map[ast.Expr]types.TypeAndValue{}
+	check := types.Config{Importer: importer.ForCompiler(files, "source", nil)}
+	if _, err := check.Check("impl", files, all, &types.Info{Types: kinds}); err != nil {
+		t.Fatal(err)
+	}
+	byFunction, arraysCompared := false, false
+	ast.Inspect(own, func(n ast.Node) bool {
+		switch x := n.(type) {
+		case *ast.RangeStmt:
+			_, isFunction := kinds[x.X].Type.Underlying().(*types.Signature)
+			byFunction = byFunction || isFunction
+		case *ast.BinaryExpr:
+			_, isArray := kinds[x.X].Type.Underlying().(*types.Array)
+			arraysCompared = arraysCompared || isArray && x.Op == token.EQL
+		}
+		return true
+	})
+	if !byFunction || !arraysCompared {
+		t.Error("the schedules are not told by an iterator, or the ranks not compared as arrays", byFunction, arraysCompared)
 	}
 }
