@@ -181,3 +181,28 @@ func TestSchedulesByAnIterator(t *testing.T) {
 		t.Error("the schedules are not told by an iterator, or the ranks not compared as arrays", byFunction, arraysCompared)
 	}
 }
+
+// TestClocksAreCutCopiedAndCleared asks for the ways of chapter 6 in its own file: other chapters cut by a third index, too.
+func TestClocksAreCutCopiedAndCleared(t *testing.T) {
+	file, err := parser.ParseFile(token.NewFileSet(), filepath.Join("..", "impl", "l6_order.go"), nil, 0)
+	if err != nil {
+		t.Fatal(err)
+	}
+	ways := map[string]bool{}
+	ast.Inspect(file, func(n ast.Node) bool {
+		switch x := n.(type) {
+		case *ast.SliceExpr:
+			ways["three-index"] = ways["three-index"] || x.Slice3
+		case *ast.CallExpr:
+			if f, ok := x.Fun.(*ast.Ident); ok {
+				ways[f.Name] = true
+			}
+		}
+		return true
+	})
+	for _, way := range []string{"three-index", "copy", "clear"} {
+		if !ways[way] {
+			t.Error("way missing:", way)
+		}
+	}
+}
