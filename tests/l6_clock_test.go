@@ -161,6 +161,23 @@ func TestClocksOfTracesThatNoRunHas(t *testing.T) {
 	}
 }
 
+// eachSmallTrace goes through all traces of at most so many of these events.
+func eachSmallTrace(most int, events []impl.Event, see func(trace []impl.Event)) {
+	var places []int
+	for place := range events {
+		places = append(places, place)
+	}
+	for many := range most + 1 {
+		eachList(many, places, func(list []int) {
+			var trace []impl.Event
+			for _, place := range list {
+				trace = append(trace, events[place])
+			}
+			see(trace)
+		})
+	}
+}
+
 // TestClocksOfAllSmallTraces goes through all traces of four events, of a kind for each end of a step.
 func TestClocksOfAllSmallTraces(t *testing.T) {
 	events := []impl.Event{
@@ -168,19 +185,7 @@ func TestClocksOfAllSmallTraces(t *testing.T) {
 		eventOf(1, impl.EvUnlock, 2, -1, 0), eventOf(0, impl.EvLock, 2, -1, 0), eventOf(0, impl.EvWait, 0, 2, 0), eventOf(2, impl.EvWake, 0, 2, 0),
 		eventOf(1, impl.EvSignal, 0, 2, 0),
 	}
-	var places []int
-	for place := range events {
-		places = append(places, place)
-	}
-	for many := range 5 {
-		eachList(many, places, func(list []int) {
-			var trace []impl.Event
-			for _, place := range list {
-				trace = append(trace, events[place])
-			}
-			holdsOfTrace(t, trace)
-		})
-	}
+	eachSmallTrace(4, events, func(trace []impl.Event) { holdsOfTrace(t, trace) })
 }
 
 func TestClocksOfRuns(t *testing.T) {

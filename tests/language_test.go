@@ -141,8 +141,9 @@ func TestRunsAreWalkedByLabels(t *testing.T) {
 	}
 }
 
-// TestSchedulesByAnIterator asks for the ways of chapter 5 in its own file: a range over a function, and arrays that are compared.
-func TestSchedulesByAnIterator(t *testing.T) {
+// checkedFile tells one file of the program, and the types of what stands in it.
+func checkedFile(t *testing.T, name string) (*ast.File, map[ast.Expr]types.TypeAndValue) {
+	t.Helper()
 	files := token.NewFileSet()
 	names, err := filepath.Glob(filepath.Join("..", "impl", "*.go"))
 	if err != nil {
@@ -150,13 +151,13 @@ func TestSchedulesByAnIterator(t *testing.T) {
 	}
 	var all []*ast.File
 	var own *ast.File
-	for _, name := range names {
-		file, err := parser.ParseFile(files, name, nil, 0)
+	for _, each := range names {
+		file, err := parser.ParseFile(files, each, nil, 0)
 		if err != nil {
 			t.Fatal(err)
 		}
 		all = append(all, file)
-		if filepath.Base(name) == "l5_prio.go" {
+		if filepath.Base(each) == name {
 			own = file
 		}
 	}
@@ -165,6 +166,12 @@ func TestSchedulesByAnIterator(t *testing.T) {
 	if _, err := check.Check("impl", files, all, &types.Info{Types: kinds}); err != nil {
 		t.Fatal(err)
 	}
+	return own, kinds
+}
+
+// TestSchedulesByAnIterator asks for the ways of chapter 5 in its own file: a range over a function, and arrays that are compared.
+func TestSchedulesByAnIterator(t *testing.T) {
+	own, kinds := checkedFile(t, "l5_prio.go")
 	byFunction, arraysCompared := false, false
 	ast.Inspect(own, func(n ast.Node) bool {
 		switch x := n.(type) {
@@ -204,5 +211,29 @@ func TestClocksAreCutCopiedAndCleared(t *testing.T) {
 		if !ways[way] {
 			t.Error("way missing:", way)
 		}
+	}
+}
+
+// TestCellsAreKnownInMaps asks for the ways of chapter 7 in its own file: a map that is deleted from, and one that is ranged over.
+func TestCellsAreKnownInMaps(t *testing.T) {
+	own, kinds := checkedFile(t, "l7_race.go")
+	isMap := func(e ast.Expr) bool {
+		_, is := kinds[e].Type.Underlying().(*types.Map)
+		return is
+	}
+	deleted, ranged := false, false
+	ast.Inspect(own, func(n ast.Node) bool {
+		switch x := n.(type) {
+		case *ast.RangeStmt:
+			ranged = ranged || isMap(x.X)
+		case *ast.CallExpr:
+			if f, ok := x.Fun.(*ast.Ident); ok && f.Name == "delete" {
+				deleted = deleted || isMap(x.Args[0])
+			}
+		}
+		return true
+	})
+	if !deleted || !ranged {
+		t.Error("no map is deleted from, or none is ranged over", deleted, ranged)
 	}
 }
