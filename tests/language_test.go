@@ -237,3 +237,24 @@ func TestCellsAreKnownInMaps(t *testing.T) {
 		t.Error("no map is deleted from, or none is ranged over", deleted, ranged)
 	}
 }
+
+// TestLocksInGenericGraphs asks for the ways of chapter 8 in its own file, since other chapters have generic functions, too.
+func TestLocksInGenericGraphs(t *testing.T) {
+	file, err := parser.ParseFile(token.NewFileSet(), filepath.Join("..", "impl", "l8_lock.go"), nil, 0)
+	if err != nil {
+		t.Fatal(err)
+	}
+	types, functions := false, false
+	ast.Inspect(file, func(n ast.Node) bool {
+		switch x := n.(type) {
+		case *ast.TypeSpec:
+			types = types || x.TypeParams != nil
+		case *ast.FuncDecl:
+			functions = functions || x.Type.TypeParams != nil
+		}
+		return true
+	})
+	if !types || !functions {
+		t.Error("no type is generic, or no function", types, functions)
+	}
+}
