@@ -160,8 +160,10 @@ func TestLocksOfTheGateItself(t *testing.T) {
 	hasGate(t, append(slices.Clone(trace[:4]), takes(1, 2), takes(1, 1)), 1, 2)
 	hasGate(t, trace, 1, 3, 2)
 	hasNoGate(t, trace, 2, 3)
+	hasGate(t, trace, 1, 1, 2)
+	hasGate(t, trace, 2, 2, 1)
 	for _, lock := range []int{0, 1, 2, 3, 99} {
-		hasNoGate(t, trace, lock, lock)
+		hasNoGate(t, trace[:2], lock, lock)
 		hasNoGate(t, crossing(0, 1, 1, 2, [2][]int{}), lock, lock)
 	}
 }

@@ -222,7 +222,7 @@ func TestLocksInOrderOfAllSmallTraces(t *testing.T) {
 			round++
 		}
 	})
-	if round < all/20 || round > all/2 {
+	if round < all/20 || round > 2*all/3 {
 		t.Error("too many, or too few, have a circle", round, all)
 	}
 }

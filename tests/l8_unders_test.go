@@ -39,7 +39,7 @@ func undersByWords(trace []impl.Event) []impl.Under {
 	for place, e := range trace {
 		taken := takenBy(e)
 		for lock := 0; taken >= 0 && lock < 100; lock++ {
-			if lock != taken && hadAhead(trace, place, lock) {
+			if hadAhead(trace, place, lock) {
 				unders = append(unders, impl.Under{Had: lock, Taken: taken, Thread: e.Thread, At: place})
 			}
 		}
@@ -133,22 +133,50 @@ func TestLocksUnderThoseOfOtherThreads(t *testing.T) {
 }
 
 // TestLocksTakenWhenTheyAreHad has traces that no run has: a lock that is had when it is taken again
-// is none of those had there.
+// is one of those had there, and so a circle of its own.
 func TestLocksTakenWhenTheyAreHad(t *testing.T) {
 	for _, again := range []impl.Event{takes(0, 1), wakes(0, 3, 1)} {
-		hasUnders(t, []impl.Event{takes(0, 1), again})
-		hasUnders(t, []impl.Event{takes(0, 1), again, again})
-		// Others that are had are under it still, and it is under others.
-		hasUnders(t, []impl.Event{takes(0, 1), takes(0, 2), again}, under(1, 2, 0, 1), under(2, 1, 0, 2))
-		hasUnders(t, []impl.Event{takes(0, 2), takes(0, 1), again, takes(0, 0)}, under(2, 1, 0, 1), under(2, 1, 0, 2), under(1, 0, 0, 3), under(2, 0, 0, 3))
+		hasUnders(t, []impl.Event{takes(0, 1), again}, under(1, 1, 0, 1))
+		hasUnders(t, []impl.Event{takes(0, 1), again, again}, under(1, 1, 0, 1), under(1, 1, 0, 2))
+		hasUnders(t, []impl.Event{again, takes(0, 1)}, under(1, 1, 0, 1))
+		// Others that are had are among them still, and it is under others, rising.
+		hasUnders(t, []impl.Event{takes(0, 1), takes(0, 2), again}, under(1, 2, 0, 1), under(1, 1, 0, 2), under(2, 1, 0, 2))
+		hasUnders(t, []impl.Event{takes(0, 0), takes(0, 1), again, takes(0, 2)},
+			under(0, 1, 0, 1), under(0, 1, 0, 2), under(1, 1, 0, 2), under(0, 2, 0, 3), under(1, 2, 0, 3))
 		// Whether it is had is what LocksHeld tells: given once it is not, however often it was taken.
-		hasUnders(t, []impl.Event{takes(0, 1), again, gives(0, 1), takes(0, 2)})
-		// It warns of nothing, and has its place in the order once.
-		trace := []impl.Event{takes(0, 1), again, takes(1, 1)}
-		warns(t, trace)
-		inOrderOf(t, trace, 1)
-		hasNoGate(t, trace, 1, 1)
+		hasUnders(t, []impl.Event{takes(0, 1), again, gives(0, 1), takes(0, 2)}, under(1, 1, 0, 1))
+		hasUnders(t, []impl.Event{takes(0, 1), waits(0, 3, 1), again})
+		hasUnders(t, []impl.Event{takes(0, 1), gives(1, 1), again}, under(1, 1, 0, 2))
+		// It is had by its own thread alone.
+		hasUnders(t, []impl.Event{takes(1, 1), again})
+		hasUnders(t, []impl.Event{again, takes(1, 1), takes(1, 1)}, under(1, 1, 1, 2))
+		// It warns of itself, ahead of longer circles from it, and leaves no order, of other locks neither.
+		trace := []impl.Event{takes(0, 1), again, takes(1, 1), takes(1, 7)}
+		warns(t, trace, 1)
+		hasNoOrder(t, trace)
+		warns(t, slices.Concat(inRing(1, 2), trace), 1)
+		warns(t, slices.Concat(inRing(0, 1), trace), 0, 1)
+		// Its gate is what is had wherever it is taken so; it is not told of as guarded.
+		hasGate(t, trace, 1, 1)
+		hasGate(t, []impl.Event{takes(0, 5), takes(0, 1), again, gives(0, 5), takes(0, 6), again, takes(0, 5), again}, 1, 1)
+		hasGate(t, []impl.Event{takes(0, 5), takes(0, 1), again, takes(0, 6), again}, 1, 1, 5)
+		hasNoGate(t, trace, 7, 7)
+		isGuarded(t, append(trace, takes(1, 1)))
 	}
+}
+
+// TestLocksTakenTwiceAndOnce has the two traces of which the order was asked first.
+func TestLocksTakenTwiceAndOnce(t *testing.T) {
+	again := []impl.Event{takes(0, 5), takes(0, 5)}
+	hasUnders(t, again, under(5, 5, 0, 1))
+	hasPairs(t, again, []int{5, 5})
+	warns(t, again, 5)
+	hasNoOrder(t, again)
+	hasUnders(t, []impl.Event{takes(0, 3), takes(0, 5), takes(0, 5), gives(0, 5), takes(0, 5)},
+		under(3, 5, 0, 1), under(3, 5, 0, 2), under(5, 5, 0, 2), under(3, 5, 0, 4))
+	// A lock that was not had ahead of the place is no Had by being taken there.
+	hasUnders(t, again[:1])
+	inOrderOf(t, again[:1], 5)
 }
 
 func TestLocksUnderOtherKinds(t *testing.T) {
