@@ -258,3 +258,19 @@ func TestLocksInGenericGraphs(t *testing.T) {
 		t.Error("no type is generic, or no function", types, functions)
 	}
 }
+
+// TestEventsAreComparedAsStructs asks for the way of chapter 9 in its own file, since other chapters compare structs, too.
+func TestEventsAreComparedAsStructs(t *testing.T) {
+	own, kinds := checkedFile(t, "l9_swap.go")
+	compared := false
+	ast.Inspect(own, func(n ast.Node) bool {
+		if x, ok := n.(*ast.BinaryExpr); ok && (x.Op == token.EQL || x.Op == token.NEQ) {
+			named, isNamed := kinds[x.X].Type.(*types.Named)
+			compared = compared || isNamed && named.Obj().Name() == "Event"
+		}
+		return true
+	})
+	if !compared {
+		t.Error("no events are compared as structs")
+	}
+}
